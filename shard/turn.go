@@ -4,6 +4,7 @@ import (
 	"slices"
 
 	"carrefour/api"
+	"carrefour/own"
 	"carrefour/point"
 	"carrefour/ring"
 )
@@ -11,7 +12,7 @@ import (
 // Put is s with the batch l behind all that is ready.
 func Put(s api.Shard, l []api.Msg) (api.Shard, int) {
 	code := mayPut(s, l)
-	s = own(s)
+	s = own.Shard(s)
 	if code != api.OK {
 		return s, code
 	}
@@ -80,7 +81,7 @@ func marked(l []api.Mark, m api.Msg) []api.Mark {
 // Get is s with the first message held whose key is free, and that one.
 func Get(s api.Shard) (api.Shard, api.Held, int) {
 	k, code := first(s)
-	s = own(s)
+	s = own.Shard(s)
 	if code != api.OK {
 		return s, api.Held{}, code
 	}
@@ -134,7 +135,7 @@ func Nack(s api.Shard, tag int) (api.Shard, int) {
 // settle is s without what is held under tag, and that message.
 func settle(s api.Shard, tag int) (api.Shard, api.Msg, int) {
 	k, code := under(s, tag)
-	s = own(s)
+	s = own.Shard(s)
 	if code != api.OK {
 		return s, api.Msg{}, code
 	}
@@ -168,9 +169,9 @@ func Thaw(s api.Shard) (api.Shard, int) { return turn(s, false) }
 
 func turn(s api.Shard, frozen bool) (api.Shard, int) {
 	if !May(s) {
-		return own(s), api.ErrArg
+		return own.Shard(s), api.ErrArg
 	}
-	s = own(s)
+	s = own.Shard(s)
 	if s.Frozen == frozen {
 		return s, api.ErrState
 	}
@@ -181,10 +182,10 @@ func turn(s api.Shard, frozen bool) (api.Shard, int) {
 // Part is what of s has keys whose points are k's, of those arcs.
 func Part(s api.Shard, l []api.Arc, k int) (api.Shard, int) {
 	if !May(s) || !ring.May(l) {
-		return own(s), api.ErrArg
+		return own.Shard(s), api.ErrArg
 	}
 	if !s.Frozen || len(s.Held) > 0 {
-		return own(s), api.ErrState
+		return own.Shard(s), api.ErrState
 	}
 	part := api.Shard{Next: s.Next}
 	for _, m := range s.Ready {
